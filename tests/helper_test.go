@@ -2,6 +2,7 @@ package tests
 
 import (
 	"bytes"
+	"slices"
 	"testing"
 	"unsafe"
 )
@@ -43,5 +44,33 @@ func (l *loan) kept() bool {
 func (l *loan) spoil() {
 	for i := range l.room {
 		l.room[i] ^= 0x5a
+	}
+}
+
+// listLoan is a list with room behind it, of which the test can tell whether a call wrote into either.
+type listLoan struct {
+	room []int64
+	was  []int64
+	size int
+}
+
+func newListLoan(list []int64) *listLoan {
+	room := append(slices.Clone(list), 77, 88, 99)
+	return &listLoan{room: room, was: slices.Clone(room), size: len(list)}
+}
+
+func (l *listLoan) list() []int64 {
+	return l.room[:l.size]
+}
+
+func (l *listLoan) kept() bool {
+	return slices.Equal(l.room, l.was)
+}
+
+// spoil changes every number of a list, the room behind it included.
+func spoil(list []int64) {
+	list = list[:cap(list)]
+	for i := range list {
+		list[i] ^= 0x5a
 	}
 }
