@@ -628,10 +628,6 @@ func (p codes) wrongShards(c impl.Code, shards []string, call func(what string, 
 			alone[i] = impl.Shard{Have: true, Data: strings.Repeat("x", length)}
 			call(fmt.Sprint("shard ", i, " alone of ", length, " bytes"), alone, impl.ErrSize)
 		}
-		// Chapter 1 has every call refuse so long a text, even one that plays no part.
-		lacking := right()
-		lacking[i] = impl.Shard{Data: strings.Repeat("x", impl.MaxBytes+1)}
-		call(fmt.Sprint("shard ", i, " lacking, and too long a text"), lacking, impl.ErrSize)
 	}
 	for _, length := range []int{0, impl.MaxShard + 1, impl.MaxBytes + 1} {
 		long := slices.Repeat([]string{strings.Repeat("x", length)}, int(size))
@@ -677,9 +673,71 @@ func TestP4SizeComesAheadOfLost(t *testing.T) {
 	if got := impl.DecodeShards(c, shards); !isOnlyCode(got, impl.ErrSize) {
 		t.Errorf("two are there, of two lengths: %v", got)
 	}
-	shards[5] = impl.Shard{Data: strings.Repeat("x", impl.MaxBytes)}
-	if got := impl.DecodeShards(c, shards); !isOnlyCode(got, impl.ErrLost) {
-		t.Errorf("one is there, and a long text of one that is not: %v", got)
+}
+
+// junkSizes are lengths on both sides of every bound that a text has anywhere.
+var junkSizes = []int{0, 1, 2, 3, impl.MaxShard, impl.MaxShard + 1, impl.MaxBytes, impl.MaxBytes + 1, 2 * impl.MaxBytes, 4*impl.MaxBytes + 1}
+
+// withJunk gives the shards that one has, and of each that one lacks a text of its own of so many bytes.
+func withJunk(shards []string, have []bool, size int) []impl.Shard {
+	list := held(shards, have)
+	for i := range list {
+		if !list[i].Have {
+			list[i].Data = strings.Repeat(string(rune('a'+i%26)), size)
+		}
+	}
+	return list
+}
+
+// losses are what one has of a code's shards: all but each one, each one alone, the first and the last K, and none.
+func losses(c impl.Code) [][]bool {
+	size := impl.CodeSize(c)
+	list := [][]bool{make([]bool, size), only(size, rising(0, int(c.K))), only(size, rising(int(size-c.K), int(size)))}
+	for i := range size {
+		list = append(list, without(all(size), i), only(size, []int{int(i)}))
+	}
+	return list
+}
+
+// What one lacks plays no part, however long its text is: the same is answered as with no text at all.
+func TestP4WhatOneLacksPlaysNoPart(t *testing.T) {
+	p := newCodes()
+	for _, c := range []impl.Code{{K: 1}, {K: 1, M: 1}, {K: 2, M: 1, Groups: 2}, {K: 4, M: 2}, {K: 6, Groups: 6}, {K: 4, M: 2, Groups: 2}} {
+		shards := impl.EncodeShards(c, p.drawnTexts(int(c.K), 3)).Shards
+		for _, have := range losses(c) {
+			rank := len(p.taken(p.rows(c), have))
+			for _, size := range junkSizes {
+				got := impl.DecodeShards(c, withJunk(shards, have, size))
+				if rank == int(c.K) && !isShards(got, shards) {
+					t.Errorf("%v with %v, the others of %d bytes: code %d, or other shards", c, have, size, got.Code)
+				}
+				if rank < int(c.K) && !isOnlyCode(got, impl.ErrLost) {
+					t.Errorf("%v with %v, the others of %d bytes: code %d", c, have, size, got.Code)
+				}
+			}
+		}
+	}
+}
+
+// Nor does it hide a fault of what one has, or of the list.
+func TestP4WhatOneLacksHidesNoFault(t *testing.T) {
+	c := impl.Code{K: 2, M: 2}
+	for _, size := range junkSizes {
+		shards := withJunk([]string{"ab", "abc", "", ""}, []bool{true, true, false, false}, size)
+		if got := impl.DecodeShards(c, shards); !isOnlyCode(got, impl.ErrSize) {
+			t.Errorf("two lengths, the others of %d bytes: %d", size, got.Code)
+		}
+		if got := impl.DecodeShards(c, shards[1:]); !isOnlyCode(got, impl.ErrForm) {
+			t.Errorf("one too few, the others of %d bytes: %d", size, got.Code)
+		}
+		for lost := range int64(4) {
+			if got := impl.RepairShard(c, shards, lost); !isOnlyCode(got, impl.ErrSize) {
+				t.Errorf("two lengths, the others of %d bytes, lost %d: %d", size, lost, got.Code)
+			}
+			if got := impl.RepairShard(c, shards[1:], lost); !isOnlyCode(got, impl.ErrForm) {
+				t.Errorf("one too few, the others of %d bytes, lost %d: %d", size, lost, got.Code)
+			}
+		}
 	}
 }
 
@@ -844,6 +902,28 @@ func TestP5TheLostOnePlaysNoPart(t *testing.T) {
 				x, y := impl.RepairPlan(c, there, lost), impl.RepairPlan(c, without(have, lost), lost)
 				if x.Code != y.Code || !slices.Equal(x.Reads, y.Reads) || slices.Contains(x.Reads, lost) {
 					t.Fatalf("%v with %v, lost %d: %v and %v", c, have, lost, x, y)
+				}
+			}
+		}
+	}
+}
+
+// What one lacks plays no part, however long its text is: the same is answered as with no text at all.
+func TestP5WhatOneLacksPlaysNoPart(t *testing.T) {
+	p := newCodes()
+	for _, c := range []impl.Code{{K: 1}, {K: 1, M: 1}, {K: 2, M: 1, Groups: 2}, {K: 4, M: 2, Groups: 2}} {
+		shards := impl.EncodeShards(c, p.drawnTexts(int(c.K), 3)).Shards
+		for _, have := range losses(c) {
+			for lost := range impl.CodeSize(c) {
+				reads := p.plan(c, p.rows(c), have, lost)
+				for _, size := range junkSizes {
+					got := impl.RepairShard(c, withJunk(shards, have, size), lost)
+					if reads != nil && !isShards(got, shards[lost:lost+1]) {
+						t.Errorf("%v with %v, lost %d, the others of %d bytes: code %d, or another shard", c, have, lost, size, got.Code)
+					}
+					if reads == nil && !isOnlyCode(got, impl.ErrLost) {
+						t.Errorf("%v with %v, lost %d, the others of %d bytes: code %d", c, have, lost, size, got.Code)
+					}
 				}
 			}
 		}
