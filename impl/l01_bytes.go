@@ -205,15 +205,25 @@ func UnHex(text string) TextRead {
 	return TextRead{Good: true, Text: string(out), Next: c.at}
 }
 
+// firstSum is the sum of no bytes.
+func firstSum(seed int64) int64 {
+	return seed%SumPrime + 1
+}
+
+// sumOn goes on from the sum of what stands ahead of data, so that a beginning
+// that many texts share is gone through once.
+func sumOn(sum int64, data string) int64 {
+	// Below 2^31 times 65539, and a byte, is far from the end of an int64.
+	for i := range len(data) {
+		sum = (sum*sumFactor + int64(data[i]) + 1) % SumPrime
+	}
+	return sum
+}
+
 // SumOf is a sum of bytes, see chapter 2.
 func SumOf(data string, seed int64) int64 {
 	if seed < 0 || len(data) > 4*MaxBytes {
 		return 0
 	}
-	// Below 2^31 times 65539, and a byte, is far from the end of an int64.
-	sum := seed%SumPrime + 1
-	for i := range len(data) {
-		sum = (sum*sumFactor + int64(data[i]) + 1) % SumPrime
-	}
-	return sum
+	return sumOn(firstSum(seed), data)
 }
