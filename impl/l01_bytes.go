@@ -49,6 +49,9 @@ const hexDigits = "0123456789abcdef"
 
 const sumFactor = 65539
 
+// sumBytes is how many bytes a sum is written in.
+const sumBytes = 4
+
 // cursor reads data from a place on. Where a method answers false, what was
 // asked for does not stand there, and the place it is left at means nothing.
 type cursor struct {
@@ -218,6 +221,12 @@ func sumOn(sum int64, data string) int64 {
 		sum = (sum*sumFactor + int64(data[i]) + 1) % SumPrime
 	}
 	return sum
+}
+
+// putSum writes a sum, the highest byte first.
+func putSum(sum int64) string {
+	n := uint32(sum)
+	return string([]byte{byte(n >> 24), byte(n >> 16), byte(n >> 8), byte(n)})
 }
 
 // SumOf is a sum of bytes, see chapter 2.
