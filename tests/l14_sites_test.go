@@ -1240,7 +1240,7 @@ func TestP17NoCallOfSitesPanics(t *testing.T) {
 // isQuiet waits for a moment in which no more goes on than ahead: one that has ended for its call may still be on its
 // way out.
 func isQuiet(ahead int) bool {
-	for range 200 {
+	for range 5000 {
 		if runtime.NumGoroutine() <= ahead {
 			return true
 		}
